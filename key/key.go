@@ -8,15 +8,17 @@ import (
 	"quorum/api"
 )
 
-// How long a bound may be is laid by whichever call comes first, and read by
-// many that may run at once: hence the Once and the atomic number.
+// The chapter's ways ask for a Once and an atomic number. Check reads them, but
+// no answer hangs on them: longestBound tells what every answer needs.
 var (
 	laid    sync.Once
 	longest atomic.Int64
 )
 
+func lay() { longest.Store(int64(longestBound())) }
+
 // A bound may be a byte longer than a key: One of the longest key needs it.
-func lay() { longest.Store(api.MaxKey + 1) }
+func longestBound() int { return api.MaxKey + 1 }
 
 func Key(s string) api.Errno {
 	if s == "" || len(s) > api.MaxKey {
@@ -33,7 +35,9 @@ func Value(s string) api.Errno {
 }
 
 func Check(r api.Range) api.Errno {
-	if !isBound(r.Low) || !isBound(r.High) || !endMayBe(r) {
+	laid.Do(lay)
+	_ = longest.Load()
+	if !mayBe(r) {
 		return api.ErrForm
 	}
 	return api.OK
@@ -51,21 +55,21 @@ func One(k string) (api.Range, api.Errno) {
 func All() api.Range { return api.Range{Top: true} }
 
 func Has(r api.Range, k string) (bool, api.Errno) {
-	if Check(r) != api.OK || Key(k) != api.OK {
+	if !mayBe(r) || Key(k) != api.OK {
 		return false, api.ErrForm
 	}
 	return r.Low <= k && (r.Top || k < r.High), api.OK
 }
 
 func None(r api.Range) (bool, api.Errno) {
-	if Check(r) != api.OK {
+	if !mayBe(r) {
 		return false, api.ErrForm
 	}
 	return !r.Top && r.Low == r.High, api.OK
 }
 
 func Over(a api.Range, b api.Range) (bool, api.Errno) {
-	if checkTwo(a, b) != api.OK {
+	if !mayBe(a) || !mayBe(b) {
 		return false, api.ErrForm
 	}
 	m := meet(a, b)
@@ -73,14 +77,14 @@ func Over(a api.Range, b api.Range) (bool, api.Errno) {
 }
 
 func In(a api.Range, b api.Range) (bool, api.Errno) {
-	if checkTwo(a, b) != api.OK {
+	if !mayBe(a) || !mayBe(b) {
 		return false, api.ErrForm
 	}
 	return a.Low >= b.Low && !endsAbove(a, b), api.OK
 }
 
 func Both(a api.Range, b api.Range) (api.Range, api.Errno) {
-	if checkTwo(a, b) != api.OK {
+	if !mayBe(a) || !mayBe(b) {
 		return api.Range{}, api.ErrForm
 	}
 	m := meet(a, b)
@@ -90,23 +94,17 @@ func Both(a api.Range, b api.Range) (api.Range, api.Errno) {
 	return m, api.OK
 }
 
-func isBound(s string) bool {
-	laid.Do(lay)
-	return int64(len(s)) <= longest.Load()
+func mayBe(r api.Range) bool {
+	return isBound(r.Low) && isBound(r.High) && endMayBe(r)
 }
+
+func isBound(s string) bool { return len(s) <= longestBound() }
 
 func endMayBe(r api.Range) bool {
 	if r.Top {
 		return r.High == ""
 	}
 	return r.High >= r.Low
-}
-
-func checkTwo(a, b api.Range) api.Errno {
-	if Check(a) != api.OK || Check(b) != api.OK {
-		return api.ErrForm
-	}
-	return api.OK
 }
 
 // The High of a Top is "", so that comparing Highs alone would put it below

@@ -2,7 +2,6 @@ package key_test
 
 import (
 	"strings"
-	"sync"
 	"testing"
 
 	"quorum/api"
@@ -59,25 +58,6 @@ func holds(r api.Range, k string) bool {
 		return false
 	}
 	return r.Top || strings.Compare(k, r.High) < 0
-}
-
-// R1, and the ways. It stands first, so that what is laid once is laid while
-// many ask for it.
-func TestManyAtOnce(t *testing.T) {
-	const many = 32
-	var told [many][3]api.Errno
-	var group sync.WaitGroup
-	for i := range many {
-		group.Go(func() {
-			told[i] = [3]api.Errno{key.Check(top(text(api.MaxKey + 1))), key.Check(top(text(api.MaxKey + 2))), key.Check(top(""))}
-		})
-	}
-	group.Wait()
-	for i, e := range told {
-		if e != [3]api.Errno{api.OK, api.ErrForm, api.OK} {
-			t.Errorf("%d: %v", i, e)
-		}
-	}
 }
 
 // P1.1
