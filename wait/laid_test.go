@@ -38,3 +38,38 @@ func TestManyAtOnce(t *testing.T) {
 		t.Errorf("laid: %d", n)
 	}
 }
+
+// The variables stand beside the answers: whatever is in them, the answers
+// are the same.
+func TestNoAnswerHangsOnWhatIsLaid(t *testing.T) {
+	Check(nil)
+	was := most.Load()
+	defer most.Store(was)
+	for _, n := range []int64{-1, 0, api.MaxProgs - 1, api.MaxProgs + 1, 1 << 40} {
+		most.Store(n)
+		wantErrors(t, n, 0, api.OK, api.ErrNone)
+		wantErrors(t, n, api.MaxProgs-1, api.OK, api.ErrNone)
+		wantErrors(t, n, api.MaxProgs, api.OK, api.ErrNone)
+		wantErrors(t, n, api.MaxProgs+1, api.ErrForm, api.ErrForm)
+	}
+}
+
+func wantErrors(t *testing.T, laid int64, waits int, want, victims api.Errno) {
+	t.Helper()
+	l := idle(waits)
+	var ages []int
+	for i := range waits {
+		ages = append(ages, i+1)
+	}
+	_, victim := Victim(l, ages, 0)
+	if victim != victims {
+		t.Errorf("laid %d, %d waits: Victim %v, not %v", laid, waits, victim, victims)
+	}
+	_, reach := Reach(l, 0)
+	_, circle := Circle(l, 0)
+	for i, e := range []api.Errno{Check(l), reach, circle} {
+		if e != want {
+			t.Errorf("laid %d, %d waits, call %d: %v, not %v", laid, waits, i, e, want)
+		}
+	}
+}
