@@ -193,6 +193,28 @@ func TestEpochs(t *testing.T) {
 	}
 }
 
+// Of each number of tables, without rows and with some.
+func TestTables(t *testing.T) {
+	for tables := 1; tables <= api.MaxTables; tables++ {
+		for _, like := range [][][]api.Row{make([][]api.Row, tables), slices.Concat(two(), two())[:tables]} {
+			c := grouped(api.PolicyCircle, 2)
+			c.Tables = tables
+			p := paired(t, c, like)
+			for i := range 2 * tables {
+				at := i % tables
+				p.run(t, on(turns(3, 4), prog(put(at, "n", text(i)), cut(at, "a"), commit()), reads(get(at, "n"), scan(at, top(""), 9), commit()), prog(insert(tables-1-at, "m", text(i)), commit())))
+				p.restored(t)
+				if m := p.g.Map(); !slices.Contains(m[at], api.Row{Key: "n", Value: text(i)}) || !strings.Contains(text(m[tables-1-at]), "{m ") {
+					t.Errorf("%d of %d: %v", at, tables, m)
+				}
+			}
+			if a, e := p.g.Run(on([]int{0}, prog(get(tables, "n")))); a != nil || e != api.ErrForm {
+				t.Errorf("%v, %v", e, a)
+			}
+		}
+	}
+}
+
 // some are programs of which the first two are flushed by Group, the fourth one by a
 // pick; the last one stays open.
 func some() api.Epoch {
